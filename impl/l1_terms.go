@@ -268,6 +268,19 @@ func (s *termSize) add(t Term, depth int) bool {
 	return true
 }
 
+// cloneTerm returns t in new memory. It needs t to be small: a valid term, or
+// the zero value.
+func cloneTerm(t Term) Term {
+	c := Term{Kind: t.Kind, N: t.N}
+	if len(t.Kids) > 0 {
+		c.Kids = make([]Term, len(t.Kids))
+		for i, kid := range t.Kids {
+			c.Kids[i] = cloneTerm(kid)
+		}
+	}
+	return c
+}
+
 func sameRoot(a, b Term) bool {
 	return a.Kind == b.Kind && a.N == b.N && len(a.Kids) == len(b.Kids)
 }
