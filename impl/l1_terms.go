@@ -116,6 +116,7 @@ type termKind interface {
 	operands() int
 	maxN() int
 	accept(v termVisitor, t Term)
+	typingRule
 }
 
 // termVisitor treats one node of a valid term.
