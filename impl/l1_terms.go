@@ -56,19 +56,14 @@ func FormatTerm(t Term) string {
 	if !TermValid(t) {
 		return ""
 	}
-	var f termFormatter
+	f := newTermFormatter()
 	f.format(t)
 	return f.out.String()
 }
 
 // ParseTerm parses the text of a term.
 func ParseTerm(text string) (Term, bool) {
-	c := termCursor{text: text}
-	t, ok := c.term(1)
-	if !ok || c.at != len(text) {
-		return Term{}, false
-	}
-	return t, true
+	return newTermCursor(text).whole()
 }
 
 // CountNodes returns the number of nodes of t.
@@ -360,13 +355,22 @@ func (c listClasses) join(a, b []Term) bool {
 	return true
 }
 
+// termFormatter writes variables as numbers. A formatter of another form of
+// texts embeds it, and replaces the methods for what differs.
 type termFormatter struct {
-	out strings.Builder
+	out  strings.Builder
+	form termVisitor // the formatter itself, or the one that embeds it
+}
+
+func newTermFormatter() *termFormatter {
+	f := &termFormatter{}
+	f.form = f
+	return f
 }
 
 func (f *termFormatter) format(t Term) {
 	if kind, ok := kindOf(t); ok {
-		kind.accept(f, t)
+		kind.accept(f.form, t)
 	}
 }
 
@@ -398,12 +402,35 @@ func (f *termFormatter) visitPair(t, a, b Term)    { f.write("|", ",", "|", t, a
 func (f *termFormatter) visitFst(a Term)           { f.write("^", "", "", a) }
 func (f *termFormatter) visitSnd(a Term)           { f.write("_", "", "", a) }
 
+// termReader reads one term from the text of a termCursor. No node of it may
+// be deeper than MaxDepth, where depth is that of its root.
+type termReader interface {
+	term(depth int) (Term, bool)
+}
+
 // termCursor reads a text from the left. It counts the nodes as it goes,
-// because a text may be much longer than that of any valid term.
+// because a text may be much longer than that of any valid term. A cursor for
+// another form of texts embeds it, and replaces the method term.
 type termCursor struct {
 	text  string
 	at    int
 	nodes int
+	form  termReader // the cursor itself, or the one that embeds it
+}
+
+func newTermCursor(text string) *termCursor {
+	c := &termCursor{text: text}
+	c.form = c
+	return c
+}
+
+// whole reads a term that has all of the text.
+func (c *termCursor) whole() (Term, bool) {
+	t, ok := c.form.term(1)
+	if !ok || c.at != len(c.text) {
+		return Term{}, false
+	}
+	return t, true
 }
 
 // take passes want, if the text continues with it.
@@ -425,20 +452,37 @@ func (c *termCursor) next() byte {
 	return c.text[c.at-1]
 }
 
-func (c *termCursor) term(depth int) (Term, bool) {
+// enter reports whether there may be a further node, and counts it.
+func (c *termCursor) enter(depth int) bool {
 	if c.nodes == MaxNodes || depth > MaxDepth {
-		return Term{}, false
+		return false
 	}
 	c.nodes++
-	switch c.next() {
+	return true
+}
+
+func (c *termCursor) term(depth int) (Term, bool) {
+	if !c.enter(depth) {
+		return Term{}, false
+	}
+	switch first := c.next(); first {
 	case '#':
 		return c.numbered(TermVar, MaxIndex)
-	case '*':
-		return c.numbered(TermSort, MaxSort)
 	case '(':
 		return c.round(depth)
 	case '[':
 		return c.node(TermLam, depth, "]", "")
+	default:
+		return c.plain(first, depth)
+	}
+}
+
+// plain reads what comes behind the first byte of a term that is neither a
+// variable nor begins like a binder.
+func (c *termCursor) plain(first byte, depth int) (Term, bool) {
+	switch first {
+	case '*':
+		return c.numbered(TermSort, MaxSort)
 	case 'N':
 		return Term{Kind: TermNat}, true
 	case '0':
@@ -469,7 +513,7 @@ func (c *termCursor) term(depth int) (Term, bool) {
 func (c *termCursor) node(kind int, depth int, ends ...string) (Term, bool) {
 	kids := make([]Term, len(ends))
 	for i, end := range ends {
-		kid, ok := c.term(depth + 1)
+		kid, ok := c.form.term(depth + 1)
 		if !ok || !c.take(end) {
 			return Term{}, false
 		}
@@ -485,15 +529,8 @@ func (c *termCursor) round(depth int) (Term, bool) {
 	if !ok {
 		return Term{}, false
 	}
-	var kind int
-	switch c.next() {
-	case '>':
-		kind = TermPi
-	case ' ':
-		kind = TermApp
-	case '*':
-		kind = TermSigma
-	default:
+	kind, ok := roundKind(c.next())
+	if !ok {
 		return Term{}, false
 	}
 	b, ok := c.term(depth + 1)
@@ -501,6 +538,18 @@ func (c *termCursor) round(depth int) (Term, bool) {
 		return Term{}, false
 	}
 	return Term{Kind: kind, Kids: []Term{a, b}}, true
+}
+
+func roundKind(between byte) (int, bool) {
+	switch between {
+	case '>':
+		return TermPi, true
+	case ' ':
+		return TermApp, true
+	case '*':
+		return TermSigma, true
+	}
+	return 0, false
 }
 
 func (c *termCursor) numbered(kind int, limit int) (Term, bool) {
