@@ -80,7 +80,7 @@ func TermDepth(t Term) int {
 
 // Numeral returns the term for a number.
 func Numeral(n int) (Term, bool) {
-	if n < 0 || n > MaxNumber {
+	if !hasNumeral(n) {
 		return Term{}, false
 	}
 	t := Term{Kind: TermZero}
@@ -103,6 +103,10 @@ func NumeralValue(t Term) (int, bool) {
 		}
 	}
 	return 0, false
+}
+
+func hasNumeral(n int) bool {
+	return n >= 0 && n <= MaxNumber
 }
 
 // termKind is what the kinds of terms have in common. Its methods are not
