@@ -281,14 +281,19 @@ func checkTypingCases(t *testing.T, cases []typingCase) {
 	}
 }
 
-// slow is the text of a closed term that HeadNormal and Normalize reduce to
-// the closed normal term x of the type `*level`, with the given number of
-// steps, at most 201.
+// slow is the text of a closed type that HeadNormal and Normalize reduce to
+// the closed normal type x of the given level, with the given number of steps,
+// at most 201.
 func slow(t *testing.T, steps int, x string, level int) string {
 	t.Helper()
-	sort := fmt.Sprint("*", level)
+	return slowTerm(t, steps, x, fmt.Sprint("*", level))
+}
+
+// slowTerm is the same for a term x of the closed type is.
+func slowTerm(t *testing.T, steps int, x, is string) string {
+	t.Helper()
 	recursion := func(z, step, number string) string {
-		return "<[N]" + sort + "," + z + ",[N][" + sort + "]" + step + "," + number + ">"
+		return "<[N]" + is + "," + z + ",[N][" + is + "]" + step + "," + number + ">"
 	}
 	text, rest := x, steps
 	if rest >= 176 {
@@ -301,7 +306,7 @@ func slow(t *testing.T, steps int, x string, level int) string {
 		rest -= 3*n + 1
 	}
 	for range rest {
-		text = "@<[N]" + sort + ",!0," + text + ">"
+		text = "@<[N]" + is + ",!0," + text + ">"
 	}
 	term, fuel := parse(t, text), steps
 	if steps == impl.MaxFuel+1 {
