@@ -281,13 +281,19 @@ func cloneTerm(t Term) Term {
 	return c
 }
 
-func sameRoot(a, b Term) bool {
-	return a.Kind == b.Kind && a.N == b.N && len(a.Kids) == len(b.Kids)
+// nodeRoot is what a node is without its operands, but with their number.
+type nodeRoot struct {
+	kind     int
+	n        int
+	operands int
 }
+
+func (t Term) root() nodeRoot { return nodeRoot{t.Kind, t.N, len(t.Kids)} }
+func (t Term) kids() []Term   { return t.Kids }
 
 // sameTree needs a to be valid, because it goes no further than a does.
 func sameTree(a, b Term) bool {
-	if !sameRoot(a, b) {
+	if a.root() != b.root() {
 		return false
 	}
 	for i := range a.Kids {
@@ -298,44 +304,51 @@ func sameTree(a, b Term) bool {
 	return true
 }
 
-type termPair struct {
-	a Term
-	b Term
+// graphNode is what terms and programs have in common.
+type graphNode[T any] interface {
+	root() nodeRoot
+	kids() []T
+}
+
+type nodePair[T any] struct {
+	a T
+	b T
 }
 
 // sameGraph has a stack of its own and compares no two lists of operands
 // twice, so it also returns for terms that are very deep, that use the same
 // memory many times, or that contain themselves.
-func sameGraph(a, b Term) bool {
-	joined := listClasses{}
-	work := []termPair{{a, b}}
+func sameGraph[T graphNode[T]](a, b T) bool {
+	joined := listClasses[T]{}
+	work := []nodePair[T]{{a, b}}
 	for len(work) > 0 {
 		p := work[len(work)-1]
 		work = work[:len(work)-1]
-		if !sameRoot(p.a, p.b) {
+		if p.a.root() != p.b.root() {
 			return false
 		}
-		if len(p.a.Kids) == 0 || !joined.join(p.a.Kids, p.b.Kids) {
+		x, y := p.a.kids(), p.b.kids()
+		if len(x) == 0 || !joined.join(x, y) {
 			continue
 		}
-		for i := range p.a.Kids {
-			work = append(work, termPair{p.a.Kids[i], p.b.Kids[i]})
+		for i := range x {
+			work = append(work, nodePair[T]{x[i], y[i]})
 		}
 	}
 	return true
 }
 
 // operandList stands for the memory of a list of operands.
-type operandList struct {
-	first  *Term
+type operandList[T any] struct {
+	first  *T
 	length int
 }
 
 // listClasses has the lists that are equal if no difference is found: each
 // one leads to another one of its class or, without an entry, is its top.
-type listClasses map[operandList]operandList
+type listClasses[T any] map[operandList[T]]operandList[T]
 
-func (c listClasses) top(list operandList) operandList {
+func (c listClasses[T]) top(list operandList[T]) operandList[T] {
 	for {
 		up, ok := c[list]
 		if !ok {
@@ -349,9 +362,9 @@ func (c listClasses) top(list operandList) operandList {
 }
 
 // join reports whether the lists, which are not empty, were not yet joined.
-func (c listClasses) join(a, b []Term) bool {
-	x := c.top(operandList{&a[0], len(a)})
-	y := c.top(operandList{&b[0], len(b)})
+func (c listClasses[T]) join(a, b []T) bool {
+	x := c.top(operandList[T]{&a[0], len(a)})
+	y := c.top(operandList[T]{&b[0], len(b)})
 	if x == y {
 		return false
 	}
